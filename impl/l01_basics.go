@@ -1,0 +1,122 @@
+package impl
+
+import (
+	"strconv"
+	"strings"
+)
+
+// Codes, which count up from OK.
+const (
+	OK = iota
+	ErrInvalid
+	ErrRange
+	ErrNotFound
+	ErrExists
+	ErrFull
+	ErrState
+	ErrSyntax
+	ErrFormat
+	ErrTruncated
+	ErrSum
+)
+
+// Limits of names and words.
+const (
+	MaxName = 12
+	MaxWord = 10
+)
+
+// maxDigits keeps every number that is read far from the ends of int64.
+const maxDigits = 18
+
+var codeNames = [...]string{
+	OK:           "ok",
+	ErrInvalid:   "invalid",
+	ErrRange:     "range",
+	ErrNotFound:  "not-found",
+	ErrExists:    "exists",
+	ErrFull:      "full",
+	ErrState:     "state",
+	ErrSyntax:    "syntax",
+	ErrFormat:    "format",
+	ErrTruncated: "truncated",
+	ErrSum:       "sum",
+}
+
+// CodeName returns the name of a code.
+func CodeName(code int64) string {
+	if code < 0 || code >= int64(len(codeNames)) {
+		return ""
+	}
+	return codeNames[code]
+}
+
+// IsName reports whether s is a name.
+func IsName(s string) bool {
+	if len(s) < 1 || len(s) > MaxName {
+		return false
+	}
+	for at, r := range s {
+		if isSmallLetter(r) {
+			continue
+		}
+		if at == 0 || !isDigit(r) && r != '-' {
+			return false
+		}
+	}
+	return true
+}
+
+// Decimal returns the decimal form of a number.
+func Decimal(n int64) string { return strconv.FormatInt(n, 10) }
+
+// ReadDecimal returns the number with a decimal form.
+func ReadDecimal(s string) (int64, bool) {
+	if len(strings.TrimPrefix(s, "-")) > maxDigits {
+		return 0, false
+	}
+	n, err := strconv.ParseInt(s, 10, 64)
+	// ParseInt also takes a plus sign, leading zeros and -0, which Decimal never returns.
+	if err != nil || Decimal(n) != s {
+		return 0, false
+	}
+	return n, true
+}
+
+// SplitWords returns the parts of a text without blanks.
+func SplitWords(s string) []string {
+	// strings.Fields would also divide at tabs, newlines and other white space.
+	return strings.FieldsFunc(s, isBlank)
+}
+
+// IsWord reports whether s is a word.
+func IsWord(s string) bool {
+	if len(s) < 1 || len(s) > MaxWord {
+		return false
+	}
+	for _, r := range s {
+		if !isSmallLetter(r) {
+			return false
+		}
+	}
+	return true
+}
+
+func isSmallLetter(r rune) bool { return 'a' <= r && r <= 'z' }
+
+func isDigit(r rune) bool { return '0' <= r && r <= '9' }
+
+func isBlank(r rune) bool { return r == ' ' }
+
+// readNumbers returns the numbers whose decimal forms are the words, if all of them are such forms.
+func readNumbers(words ...string) ([]int64, bool) {
+	numbers := make([]int64, 0, len(words))
+	for _, word := range words {
+		n, ok := ReadDecimal(word)
+		if !ok {
+			return nil, false
+		}
+		numbers = append(numbers, n)
+	}
+	return numbers, true
+}
