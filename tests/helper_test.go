@@ -2,6 +2,7 @@ package tests
 
 import (
 	"reflect"
+	"slices"
 	"testing"
 
 	"loop.example/g00918/impl"
@@ -122,36 +123,111 @@ func sampleInks() []impl.Ink {
 	return inks
 }
 
-// roomy returns equal ink whose slices have unused capacity, filled with numbers that must stay.
-func roomy(i impl.Ink) impl.Ink {
-	strokes := make([]impl.Stroke, 0, len(i.Strokes)+2)
-	for _, s := range i.Strokes {
-		strokes = append(strokes, roomyStroke(s))
+// roomy returns an equal value whose slices have unused capacity, filled with what must stay.
+func roomy[T any](v T) T { return roomyValue(reflect.ValueOf(v)).Interface().(T) }
+
+func roomyValue(v reflect.Value) reflect.Value {
+	switch v.Kind() {
+	case reflect.Slice:
+		wide := reflect.MakeSlice(v.Type(), v.Len()+2, v.Len()+2)
+		for k := range wide.Len() {
+			if k < v.Len() {
+				wide.Index(k).Set(roomyValue(v.Index(k)))
+			} else {
+				wide.Index(k).Set(filled(v.Type().Elem()))
+			}
+		}
+		return wide.Slice(0, v.Len())
+	case reflect.Struct:
+		with := reflect.New(v.Type()).Elem()
+		for k := range v.NumField() {
+			with.Field(k).Set(roomyValue(v.Field(k)))
+		}
+		return with
 	}
-	fill := strokes[len(strokes):cap(strokes)]
-	for k := range fill {
-		fill[k] = stroke(point(7, 7, 7))
-	}
-	return impl.Ink{Strokes: strokes}
+	return v
 }
 
-func roomyStroke(s impl.Stroke) impl.Stroke {
-	points := make([]impl.Point, len(s.Points), len(s.Points)+2)
-	copy(points, s.Points)
-	fill := points[len(points):cap(points)]
-	for k := range fill {
-		fill[k] = point(7, 7, 7)
+// filled returns a value of a type without zeros in it.
+func filled(t reflect.Type) reflect.Value {
+	v := reflect.New(t).Elem()
+	switch t.Kind() {
+	case reflect.Int64:
+		v.SetInt(7)
+	case reflect.String:
+		v.SetString("spare")
+	case reflect.Slice:
+		v.Set(reflect.Append(v, filled(t.Elem())))
+	case reflect.Struct:
+		for k := range v.NumField() {
+			v.Field(k).Set(filled(v.Field(k).Type()))
+		}
 	}
-	return impl.Stroke{Points: points}
+	return v
 }
 
-// memoryOf copies everything that ink can reach, with unused capacity.
-func memoryOf(i impl.Ink) [][]impl.Point {
-	var memory [][]impl.Point
-	for _, s := range i.Strokes[:cap(i.Strokes)] {
-		memory = append(memory, append([]impl.Point{}, s.Points[:cap(s.Points)]...))
+// memoryOf copies everything that values can reach, with unused capacity.
+func memoryOf(values ...any) []any {
+	var memory []any
+	for _, v := range values {
+		memory = append(memory, memoryOfValue(reflect.ValueOf(v)))
 	}
 	return memory
+}
+
+func memoryOfValue(v reflect.Value) any {
+	var memory []any
+	switch v.Kind() {
+	case reflect.Slice:
+		whole := v.Slice(0, v.Cap())
+		for k := range whole.Len() {
+			memory = append(memory, memoryOfValue(whole.Index(k)))
+		}
+		return memory
+	case reflect.Struct:
+		for k := range v.NumField() {
+			memory = append(memory, memoryOfValue(v.Field(k)))
+		}
+		return memory
+	}
+	return v.Interface()
+}
+
+// slicesIn returns where the slices of a value begin and end in memory, with unused capacity.
+func slicesIn(v reflect.Value) [][2]uintptr {
+	var places [][2]uintptr
+	switch v.Kind() {
+	case reflect.Slice:
+		begin := v.Pointer()
+		places = append(places, [2]uintptr{begin, begin + uintptr(v.Cap())*v.Type().Elem().Size()})
+		for k := range v.Len() {
+			places = append(places, slicesIn(v.Index(k))...)
+		}
+	case reflect.Struct:
+		for k := range v.NumField() {
+			places = append(places, slicesIn(v.Field(k))...)
+		}
+	}
+	return places
+}
+
+func overlap(a, b [2]uintptr) bool { return max(a[0], b[0]) < min(a[1], b[1]) }
+
+// sharesMemory reports whether a slice of a result has memory in common with another one or with an argument.
+func sharesMemory(result any, arguments ...any) bool {
+	own := slicesIn(reflect.ValueOf(result))
+	var others [][2]uintptr
+	for _, a := range arguments {
+		others = append(others, slicesIn(reflect.ValueOf(a))...)
+	}
+	for k, place := range own {
+		for _, other := range slices.Concat(own[k+1:], others) {
+			if overlap(place, other) {
+				return true
+			}
+		}
+	}
+	return false
 }
 
 // scribble overwrites everything that ink can reach.
