@@ -120,3 +120,15 @@ func readNumbers(words ...string) ([]int64, bool) {
 	}
 	return numbers, true
 }
+
+// nearest returns n / d rounded to the nearest integer, the greater one of two; d is positive.
+func nearest(n, d int64) int64 { return downward(2*n+d, 2*d) }
+
+// downward returns n / d rounded down; d is positive.
+func downward(n, d int64) int64 {
+	// Go rounds quotients towards 0, and gives remainders the sign of n.
+	if n%d < 0 {
+		return n/d - 1
+	}
+	return n / d
+}
