@@ -121,6 +121,15 @@ func readNumbers(words ...string) ([]int64, bool) {
 	return numbers, true
 }
 
+// readTriple returns three numbers whose decimal forms are separated by commas, if the word consists of these.
+func readTriple(word string) ([3]int64, bool) {
+	numbers, ok := readNumbers(strings.Split(word, ",")...)
+	if !ok || len(numbers) != 3 {
+		return [3]int64{}, false
+	}
+	return [3]int64{numbers[0], numbers[1], numbers[2]}, true
+}
+
 // nearest returns n / d rounded to the nearest integer, the greater one of two; d is positive.
 func nearest(n, d int64) int64 { return downward(2*n+d, 2*d) }
 

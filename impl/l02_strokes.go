@@ -259,8 +259,8 @@ func readStroke(line string) (Stroke, bool) {
 }
 
 func readPoint(word string) (Point, bool) {
-	numbers, ok := readNumbers(strings.Split(word, ",")...)
-	if !ok || len(numbers) != 3 {
+	numbers, ok := readTriple(word)
+	if !ok {
 		return Point{}, false
 	}
 	return Point{X: numbers[0], Y: numbers[1], T: numbers[2]}, true
