@@ -121,6 +121,22 @@ func readNumbers(words ...string) ([]int64, bool) {
 	return numbers, true
 }
 
+// readLines returns the lines of a text, and whether each of them is ended by a newline; there is one at least.
+func readLines(s string) ([]string, bool) {
+	body, ended := strings.CutSuffix(s, "\n")
+	return strings.Split(body, "\n"), ended
+}
+
+// readBehind returns the number whose decimal form follows the start of a line, if the line consists of both.
+func readBehind(start, line string) (int64, bool) {
+	word, begins := strings.CutPrefix(line, start)
+	n, ok := ReadDecimal(word)
+	if !begins || !ok {
+		return 0, false
+	}
+	return n, true
+}
+
 // readTriple returns three numbers whose decimal forms are separated by commas, if the word consists of these.
 func readTriple(word string) ([3]int64, bool) {
 	numbers, ok := readNumbers(strings.Split(word, ",")...)
