@@ -300,3 +300,31 @@ func TestLatticesAreRestoredFromTexts(t *testing.T) {
 	l, _ := impl.LatticeOf(partStore(4, 3, 2), bars(9), setting(2, 8, 20))
 	is(t, "of ink", readLattice(impl.LatticeText(l)), all(l, true))
 }
+
+// TestReadingsOfJoinedLattices puts each reading of a lattice in front of each one of another lattice.
+func TestReadingsOfJoinedLattices(t *testing.T) {
+	s := source(468)
+	for range 150 {
+		a, b := randomLattice(&s, 1+s.below(4), s.below(10), "ab", 5), randomLattice(&s, 1+s.below(4), s.below(10), "ab", 5)
+		if s.below(5) == 0 {
+			b = a
+		}
+		least := map[string]int64{}
+		for _, r := range readingsFor(a) {
+			for _, behind := range readingsFor(b) {
+				text, cost := r.Text+behind.Text, r.Cost+behind.Cost
+				if known, ok := least[text]; !ok || cost < known {
+					least[text] = cost
+				}
+			}
+		}
+		var want []impl.Reading
+		for text, cost := range least {
+			want = append(want, impl.Reading{Text: text, Cost: cost})
+		}
+		slices.SortFunc(want, inReadingOrder)
+		joined, code := impl.JoinLattices(a, b)
+		is(t, "joined", code, impl.OK)
+		checkReadings(t, "both in the sum", joined, want)
+	}
+}

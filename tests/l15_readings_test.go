@@ -321,7 +321,8 @@ func TestPathCount(t *testing.T) {
 		"different steps":                  {lattice(4, slices.Concat(chain(37, 27).Edges, drawn(4, "2 3 a 0", "2 3 b 0", "2 3 c 0").Edges)...), 2997},
 		"between each two nodes":           {dense(190), 262144},
 		"more edges from the first node":   {dense(200), 262144 + 262144 - 256},
-		"many paths to a node of no use":   {lattice(8, slices.Concat(chain(10, 10, 10, 10, 10, 10).Edges[:10], drawn(8, "0 7 a 0").Edges, chain(10, 10, 10, 10, 10, 10).Edges[10:])...), 1},
+		"many paths to a node of no use":   {withEdge(lattice(8, chain(10, 10, 10, 10, 10, 20).Edges...), edge(0, 7, "a", 0)), 1},
+		"all of them to a node of no use":  {withEdge(lattice(20, chain(slices.Repeat(row(11), 18)...).Edges...), edge(0, 19, "a", 0)), 1},
 		"many paths from a node of no use": {lattice(20, slices.Concat(drawn(20, "0 19 a 0").Edges, chain(slices.Repeat(row(10), 19)...).Edges[10:])...), 1},
 	} {
 		is(t, name, all(impl.PathCount(c.l)), all(c.want, impl.OK))
